@@ -3,7 +3,10 @@
 // 1: see shared/doc/01-bayes.md.
 package bayes
 
-import "turndown/api"
+import (
+	"turndown/api"
+	"turndown/frac"
+)
 
 // Joint returns the probability of an assignment of values to all variables.
 // ErrArg: n is not a network, or values does not have one value for each
@@ -16,7 +19,7 @@ func Joint(n api.Network, values []int) (api.Frac, api.Errno) {
 	if !ok {
 		return api.Frac{}, api.ErrArg
 	}
-	return fraction(weight(n, a), fullWeight(n)), api.OK
+	return frac.New(weight(n, a), fullWeight(n)), api.OK
 }
 
 // Chance returns the probability that asked and given both hold, divided by
@@ -37,9 +40,9 @@ func Chance(n api.Network, asked, given [][2]int) (api.Frac, api.Errno) {
 	}
 	both, ok := question.join(known)
 	if !ok {
-		return fraction(0, whole), api.OK
+		return frac.New(0, whole), api.OK
 	}
-	return fraction(factsWeight(n, both), whole), api.OK
+	return frac.New(factsWeight(n, both), whole), api.OK
 }
 
 // Likely returns the lexicographically smallest one of the assignments of the
@@ -61,7 +64,7 @@ func Likely(n api.Network, given [][2]int) ([]int, api.Frac, api.Errno) {
 	}
 	values := make([]int, count)
 	copy(values, best[:])
-	return values, fraction(most, fullWeight(n)), api.OK
+	return values, frac.New(most, fullWeight(n)), api.OK
 }
 
 // Separated returns true if the set separates x and y, and otherwise false
@@ -123,5 +126,5 @@ func Effect(n api.Network, v, w int) (api.Frac, api.Frac, api.Errno) {
 	without := factsWeight(forced(n, v, 0), facts{w: 1})
 	with := factsWeight(forced(n, v, 1), facts{w: 1})
 	whole := fullWeight(n)
-	return fraction(without, whole), fraction(with, whole), api.OK
+	return frac.New(without, whole), frac.New(with, whole), api.OK
 }

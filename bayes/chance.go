@@ -139,12 +139,3 @@ func heaviest(n api.Network, f facts) (assignment, int) {
 	}
 	return best, most
 }
-
-// fraction reduces num / den, for num of at least 0 and den of at least 1.
-func fraction(num, den int) api.Frac {
-	divisor, rest := den, num
-	for rest != 0 {
-		divisor, rest = rest, divisor%rest
-	}
-	return api.Frac{Num: num / divisor, Den: den / divisor}
-}
