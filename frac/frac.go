@@ -1,4 +1,4 @@
-// Package frac makes and tests the fractions that the layers return.
+// Package frac makes and tests the fractions that the layers use.
 package frac
 
 import "turndown/api"
@@ -13,6 +13,12 @@ func New(num, den int) api.Frac {
 // least 1.
 func IsValid(f api.Frac) bool {
 	return f.Den >= 1 && commonDivisor(f.Num, f.Den) == 1
+}
+
+// CommonMultiple returns the least one of two numbers of at least 1, whose
+// product must be an int.
+func CommonMultiple(a, b int) int {
+	return a / commonDivisor(a, b) * b
 }
 
 // commonDivisor returns the greatest one, for den of at least 1. The first

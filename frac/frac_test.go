@@ -49,3 +49,23 @@ func TestIsValid(t *testing.T) {
 		}
 	}
 }
+
+// The least common multiple is the first multiple of one number that the
+// other one divides.
+func TestCommonMultiple(t *testing.T) {
+	for a := 1; a <= 60; a++ {
+		for b := 1; b <= 60; b++ {
+			want := a
+			for want%b != 0 {
+				want += a
+			}
+			if got := frac.CommonMultiple(a, b); got != want {
+				t.Errorf("CommonMultiple(%d, %d) = %d, want %d", a, b, got, want)
+			}
+		}
+	}
+	const limit = 1 << 24
+	if got := frac.CommonMultiple(limit, limit-1); got != limit*(limit-1) {
+		t.Errorf("CommonMultiple of 2^24 and one less = %d", got)
+	}
+}
